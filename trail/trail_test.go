@@ -416,3 +416,33 @@ func TestExamplesOfChapter5(t *testing.T) {
 		t.Errorf("All(5, 21): %v", got)
 	}
 }
+
+// TestWalks: a Walk that is left at each cell, and gone on with, goes along the trail; a copy of it goes on by itself.
+func TestWalks(t *testing.T) {
+	for _, log := range []int{0, 1, 3, 8} {
+		for _, hash := range hashes() {
+			want := reckoned(hash, log, length(log)+3)
+			walk := trail.Begin(hash, log)
+			for i, cell := range want {
+				copied := walk
+				copied.Step()
+				if walk.Cell() != cell || walk.Cell() != cell {
+					t.Fatalf("a Walk of %d, log %d: cell %d: got %d, want %d", hash, log, i, walk.Cell(), cell)
+				}
+				walk.Step()
+				if copied != walk {
+					t.Fatalf("a Walk of %d, log %d: a copy goes another way", hash, log)
+				}
+			}
+		}
+	}
+	for _, log := range badLogs {
+		walk := trail.Begin(-1, log)
+		for range 3 {
+			if walk.Cell() != 0 {
+				t.Errorf("a Walk at the log %d: got the cell %d", log, walk.Cell())
+			}
+			walk.Step()
+		}
+	}
+}
