@@ -403,6 +403,34 @@ func TestP7_6AllAndBack(t *testing.T) {
 	}
 }
 
+// TestFirstAndLast: the numbers of the entries that All and Back come to first.
+func TestFirstAndLast(t *testing.T) {
+	rows := []struct {
+		dead        []int
+		first, last int
+	}{
+		{nil, 0, 4}, {[]int{0}, 1, 4}, {[]int{4}, 0, 3}, {[]int{0, 1}, 2, 4}, {[]int{2}, 0, 4}, {[]int{4, 3, 0}, 1, 2},
+		{[]int{0, 1, 3, 4}, 2, 2}, {[]int{1, 2, 3, 4}, 0, 0}, {[]int{0, 1, 2, 3}, 4, 4}, {[]int{0, 1, 2, 3, 4}, -1, -1},
+	}
+	for _, r := range rows {
+		x, y := filled(t, nil, 5, func(i int) int { return 7 })
+		for _, i := range r.dead {
+			kill(t, x, y, i)
+		}
+		if x.First() != r.first || x.Last() != r.last {
+			t.Errorf("dead %v: First %d, Last %d, want %d, %d", r.dead, x.First(), x.Last(), r.first, r.last)
+		}
+		wantSight(t, "First and Last", x, y.sight())
+	}
+	var none *table.Table
+	var zero table.Table
+	for _, x := range []*table.Table{none, &zero, table.New(nil)} {
+		if x.First() != -1 || x.Last() != -1 {
+			t.Errorf("of no entry: First %d, Last %d", x.First(), x.Last())
+		}
+	}
+}
+
 // taken is the first n entries that are gone through.
 func taken(all func(func(int, api.Entry) bool), n int) []numbered {
 	var row []numbered
