@@ -150,6 +150,31 @@ func TestP8_1WhatItTells(t *testing.T) {
 	}
 }
 
+// TestPlaces: the entries of its table, of the dead ones the Birth alone.
+func TestPlaces(t *testing.T) {
+	d := filled(t, 9, nil, 7, 7, -1)
+	mustDelete(t, d, 7, 2)
+	want := []api.Entry{
+		{Live: true, Hash: 7, Key: 1, Value: 10, Birth: 0},
+		{Birth: 1},
+		{Live: true, Hash: -1, Key: 3, Value: 30, Birth: 2},
+		{},
+	}
+	for i, e := range want {
+		if got := d.Place(i); got != e {
+			t.Errorf("Place(%d): got %+v, want %+v", i, got, e)
+		}
+	}
+	var none *probe.Dict
+	var zero probe.Dict
+	if d.Places() != 3 || none.Places() != 0 || zero.Places() != 0 {
+		t.Errorf("Places: %d, of a nil Dict %d, of a zero one %d", d.Places(), none.Places(), zero.Places())
+	}
+	if none.Place(0) != (api.Entry{}) || zero.Place(0) != (api.Entry{}) {
+		t.Error("Place of a nil Dict, of a zero one")
+	}
+}
+
 func TestP8_7Clear(t *testing.T) {
 	m := &meter.Meter{}
 	d, y := filled(t, 3, m, 7, 7, 1), newModel(3, nil)

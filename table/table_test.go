@@ -431,6 +431,51 @@ func TestFirstAndLast(t *testing.T) {
 	}
 }
 
+// TestPlaces: of a dead entry the Birth alone is left, so that births rise along all entries; Sight tells nothing of it.
+func TestPlaces(t *testing.T) {
+	for _, dead := range [][]int{{}, {0}, {4}, {2, 3}, {4, 0}, {0, 1, 2, 3, 4}} {
+		x, y := filled(t, nil, 5, func(i int) int { return 7 - i })
+		for _, i := range dead {
+			kill(t, x, y, i)
+		}
+		if x.Places() != len(y.entries) {
+			t.Errorf("dead %v: Places %d", dead, x.Places())
+		}
+		for i, want := range y.entries {
+			if !want.Live {
+				want = api.Entry{Birth: i}
+			}
+			if got := x.Place(i); got != want {
+				t.Errorf("dead %v: Place(%d): got %+v, want %+v", dead, i, got, want)
+			}
+		}
+		wantSight(t, "Places", x, y.sight())
+		x.Add(1, 2, 3) // there was no more room: the dead ones are dropped
+		for i := range x.Places() {
+			if want, e := x.At(i); x.Place(i) != want || e != api.OK {
+				t.Errorf("dead %v: Place(%d): got %+v, want %+v", dead, i, x.Place(i), want)
+			}
+		}
+	}
+	var none *table.Table
+	var zero table.Table
+	x, _ := filled(t, nil, 5, func(i int) int { return 7 })
+	for _, x := range []*table.Table{none, &zero, table.New(nil), x} {
+		for _, i := range []int{-1, 5, 6, math.MinInt, math.MaxInt} {
+			if x.Place(i) != (api.Entry{}) {
+				t.Errorf("Place(%d), which there is not: %+v", i, x.Place(i))
+			}
+		}
+	}
+	if none.Places() != 0 || zero.Places() != 0 || none.Place(0) != (api.Entry{}) || zero.Place(0) != (api.Entry{}) {
+		t.Error("places of no entry")
+	}
+	x.Clear()
+	if x.Places() != 0 {
+		t.Error("Clear leaves no place")
+	}
+}
+
 // taken is the first n entries that are gone through.
 func taken(all func(func(int, api.Entry) bool), n int) []numbered {
 	var row []numbered
