@@ -19,7 +19,7 @@ func isKeyword(n api.Node) bool    { return n.Kind == api.NodeKeyword }
 
 func isInnerBlock(n api.Node) bool { return isBlock(n) && len(n.Kids) > 0 }
 func isItem(n api.Node) bool       { return isPair(n) || isSpread(n) }
-func isTargets(n api.Node) bool    { return isTarget(n) || isTargetList(n) }
+func isTargets(n api.Node) bool    { return IsTarget(n) || isTargetList(n) }
 
 // orNone takes a NodeNone beside what a test takes.
 func orNone(takes shape) shape {
@@ -38,7 +38,8 @@ func isExpression(n api.Node) bool {
 	return n.Kind >= api.NodeName && n.Kind <= api.NodeIndex
 }
 
-func isTarget(n api.Node) bool {
+// IsTarget tells whether something can be given to a node.
+func IsTarget(n api.Node) bool {
 	switch n.Kind {
 	case api.NodeName, api.NodeAttr, api.NodeIndex:
 		return true
@@ -52,9 +53,10 @@ func noText(s string) bool { return s == "" }
 
 func isGood(s string) bool { return letters.Good(s) }
 
-func isNameOrNone(s string) bool { return s == "" || isName(s) }
+func isNameOrNone(s string) bool { return s == "" || IsName(s) }
 
-func isName(s string) bool {
+// IsName tells whether a text is a name.
+func IsName(s string) bool {
 	for i := range len(s) {
 		if c := s[i]; !isLetter(c) && (i == 0 || !isDigit(c)) {
 			return false

@@ -29,13 +29,13 @@ func outerShape(kind int) shape {
 	case api.NodeExpr:
 		return row(noText, isExpression)
 	case api.NodeAssign:
-		return row(noText, isTarget, isExpression)
+		return row(noText, IsTarget, isExpression)
 	case api.NodeUnpack:
 		return row(noText, isTargetList, isExpression)
 	case api.NodeAugment:
-		return row(isOperator, isTarget, isExpression)
+		return row(isOperator, IsTarget, isExpression)
 	case api.NodeDel:
-		return row(noText, isTarget)
+		return row(noText, IsTarget)
 	case api.NodeReturn, api.NodeRaise:
 		return row(noText, orNone(isExpression))
 	case api.NodeGlobal, api.NodeNonlocal:
@@ -51,13 +51,13 @@ func outerShape(kind int) shape {
 	case api.NodeParam:
 		return paramShape
 	case api.NodeClass:
-		return row(isName, orNone(isExpression), isInnerBlock)
+		return row(IsName, orNone(isExpression), isInnerBlock)
 	case api.NodeTry:
 		return tryShape
 	case api.NodeExcept:
 		return exceptShape
 	case api.NodeTargets:
-		return longRow(noText, isTarget, isTarget, isTarget)
+		return longRow(noText, IsTarget, IsTarget, IsTarget)
 	}
 	return noShape
 }
@@ -66,7 +66,7 @@ func outerShape(kind int) shape {
 func innerShape(kind int) shape {
 	switch kind {
 	case api.NodeName:
-		return row(isName)
+		return row(IsName)
 	case api.NodeInt:
 		return intShape
 	case api.NodeStr:
@@ -96,7 +96,7 @@ func innerShape(kind int) shape {
 	case api.NodeCall:
 		return callShape
 	case api.NodeKeyword, api.NodeAttr:
-		return row(isName, isExpression)
+		return row(IsName, isExpression)
 	}
 	return noShape
 }
@@ -137,7 +137,7 @@ func noShape(n api.Node) bool { return false }
 
 func defShape(n api.Node) bool {
 	last := len(n.Kids) - 1
-	return isName(n.Text) && noNum(n) && last >= 0 &&
+	return IsName(n.Text) && noNum(n) && last >= 0 &&
 		paramsFit(n.Kids[:last]) && isInnerBlock(n.Kids[last])
 }
 
@@ -164,7 +164,7 @@ func paramsFit(list []api.Node) bool {
 // paramShape takes one without a kid, too: whether it may stand there is for
 // the Def to say.
 func paramShape(n api.Node) bool {
-	return row(isName)(n) || row(isName, orNone(isExpression))(n)
+	return row(IsName)(n) || row(IsName, orNone(isExpression))(n)
 }
 
 func tryShape(n api.Node) bool {
