@@ -110,7 +110,7 @@ func (b *builder) hash(number int) int {
 	if t := b.terms[number]; t.Kind == api.ValInstance && t.Hash {
 		hash = digest.Whole(t.Num)
 	} else {
-		hash = b.store.hash(b.made[number])
+		hash = b.store.Hash(b.made[number])
 	}
 	b.hashes[number] = hash
 	return hash

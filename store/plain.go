@@ -59,9 +59,9 @@ func ofBool(yes bool) api.Int {
 // formed is an Int in its form, or why there may be no such one.
 func formed(x api.Int) (api.Int, api.Errno) { return whole.Add(x, api.Int{}) }
 
-// hash is the hash as a key (20) of a value of which nobody need be asked: of
+// Hash is the hash as a key (20) of a value of which nobody need be asked: of
 // a plain one by what it is, of an object by its number.
-func (s *Store) hash(v int) int {
+func (s *Store) Hash(v int) int {
 	x := s.Get(v)
 	if n, ok := numberOf(x); ok {
 		return digest.Whole(n)
