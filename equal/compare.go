@@ -8,66 +8,66 @@ import (
 
 // comparing tells whether two values are the same.
 type comparing struct {
-	turning
+	Turning
 	store *store.Store
 	a, b  int
 }
 
-func compare(s *store.Store, a, b int) task {
+func toCompare(s *store.Store, a, b int) Task {
 	c := &comparing{store: s, a: a, b: b}
-	c.way = c.begin
+	c.Way = c.begin
 	return c
 }
 
 // begin needs no turn, where the values are alike.
-func (c *comparing) begin(api.Ask) move {
+func (c *comparing) begin(api.Ask) Move {
 	if c.store.Alike(c.a, c.b) {
-		return yes(true)
+		return Yes(true)
 	}
-	c.turn = true
-	return move{then: c.unlike}
+	c.Turn = true
+	return Move{Then: c.unlike}
 }
 
 // unlike compares two values that are not alike.
-func (c *comparing) unlike(api.Ask) move {
-	c.turn = false
+func (c *comparing) unlike(api.Ask) Move {
+	c.Turn = false
 	a, b := c.store.Kind(c.a), c.store.Kind(c.b)
 	switch {
 	case saysSame(c.store, c.a):
 		return c.ask(c.a, c.b)
 	case saysSame(c.store, c.b):
 		return c.ask(c.b, c.a)
-	case isRow(a) && a == b:
+	case IsRow(a) && a == b:
 		return c.rows()
 	case a == api.ValDict && b == api.ValDict:
 		return c.dicts()
-	case isSide(a) && isSide(b):
+	case IsSide(a) && IsSide(b):
 		return c.sides()
 	}
-	return yes(false)
+	return Yes(false)
 }
 
 // ask asks an instance.
-func (c *comparing) ask(instance, other int) move {
+func (c *comparing) ask(instance, other int) Move {
 	ask := api.Ask{Kind: api.TurnAsk, What: api.AskSame, A: instance, B: other}
-	return move{ask: ask, then: func(came api.Ask) move { return yes(c.store.Truth(came.Value)) }}
+	return Move{Ask: ask, Then: func(came api.Ask) Move { return Yes(c.store.Truth(came.Value)) }}
 }
 
-func (c *comparing) rows() move {
-	if len(rowOf(c.store, c.a)) != len(rowOf(c.store, c.b)) {
-		return yes(false)
+func (c *comparing) rows() Move {
+	if len(RowOf(c.store, c.a)) != len(RowOf(c.store, c.b)) {
+		return Yes(false)
 	}
 	return c.row(0)
 }
 
 // row compares the values of two rows from a place on. Who is asked may change
 // lists: so they are looked at as they are now.
-func (c *comparing) row(i int) move {
-	a, b := rowOf(c.store, c.a), rowOf(c.store, c.b)
+func (c *comparing) row(i int) Move {
+	a, b := RowOf(c.store, c.a), RowOf(c.store, c.b)
 	if i >= len(a) || i >= len(b) {
-		return yes(len(a) == len(b))
+		return Yes(len(a) == len(b))
 	}
-	return after(compare(c.store, a[i], b[i]), func(came api.Ask) move {
+	return After(toCompare(c.store, a[i], b[i]), func(came api.Ask) Move {
 		if !came.Yes {
 			return as(came)
 		}
@@ -75,25 +75,25 @@ func (c *comparing) row(i int) move {
 	})
 }
 
-func (c *comparing) dicts() move {
-	a, b := dictOf(c.store, c.a), dictOf(c.store, c.b)
+func (c *comparing) dicts() Move {
+	a, b := DictOf(c.store, c.a), DictOf(c.store, c.b)
 	if a.Len() != b.Len() {
-		return yes(false)
+		return Yes(false)
 	}
 	return c.pairs(a.Pairs(), b)
 }
 
 // pairs tells whether the pairs that are left are all in a Dict.
-func (c *comparing) pairs(left []api.Entry, b *probe.Dict) move {
+func (c *comparing) pairs(left []api.Entry, b *probe.Dict) Move {
 	if len(left) == 0 {
-		return yes(true)
+		return Yes(true)
 	}
 	pair := left[0]
-	return after(find(c.store, b, pair.Key, pair.Hash), func(came api.Ask) move {
+	return After(ToFind(c.store, b, pair.Key, pair.Hash), func(came api.Ask) Move {
 		if !came.Yes {
-			return yes(false)
+			return Yes(false)
 		}
-		return after(compare(c.store, pair.Value, came.Value), func(came api.Ask) move {
+		return After(toCompare(c.store, pair.Value, came.Value), func(came api.Ask) Move {
 			if !came.Yes {
 				return as(came)
 			}
@@ -103,36 +103,25 @@ func (c *comparing) pairs(left []api.Entry, b *probe.Dict) move {
 }
 
 // sides compares two sides, of which items views are gathered first.
-func (c *comparing) sides() move {
-	return c.side(c.a, func(a *probe.Dict) move {
-		return c.side(c.b, func(b *probe.Dict) move {
+func (c *comparing) sides() Move {
+	return Gathered(c.store, c.a, func(a *probe.Dict) Move {
+		return Gathered(c.store, c.b, func(b *probe.Dict) Move {
 			if a.Len() != b.Len() {
-				return yes(false)
+				return Yes(false)
 			}
 			return c.keys(a.Pairs(), b)
 		})
 	})
 }
 
-// side goes on with the Dict of a side.
-func (c *comparing) side(v int, then func(d *probe.Dict) move) move {
-	d := dictOf(c.store, v)
-	if c.store.Kind(v) != api.ValItems {
-		return then(d)
-	}
-	return after(gather(c.store, d), func(came api.Ask) move {
-		return then(dictOf(c.store, came.Value))
-	})
-}
-
 // keys tells whether the keys that are left are all in a Dict.
-func (c *comparing) keys(left []api.Entry, b *probe.Dict) move {
+func (c *comparing) keys(left []api.Entry, b *probe.Dict) Move {
 	if len(left) == 0 {
-		return yes(true)
+		return Yes(true)
 	}
-	return after(find(c.store, b, left[0].Key, left[0].Hash), func(came api.Ask) move {
+	return After(ToFind(c.store, b, left[0].Key, left[0].Hash), func(came api.Ask) Move {
 		if !came.Yes {
-			return yes(false)
+			return Yes(false)
 		}
 		return c.keys(left[1:], b)
 	})

@@ -12,7 +12,8 @@ const (
 	sameName = "__eq__"
 )
 
-func isValue(s *store.Store, v int) bool { return s.Kind(v) != 0 }
+// IsValue tells whether a reference is that of a value.
+func IsValue(s *store.Store, v int) bool { return s.Kind(v) != 0 }
 
 // isDictionary tells whether values of a kind have a Dict of their own.
 func isDictionary(kind int) bool {
@@ -23,12 +24,12 @@ func isDictionary(kind int) bool {
 	return false
 }
 
-// isRow tells whether values of a kind have a row of values.
-func isRow(kind int) bool { return kind == api.ValTuple || kind == api.ValList }
+// IsRow tells whether values of a kind have a row of values.
+func IsRow(kind int) bool { return kind == api.ValTuple || kind == api.ValList }
 
-// isSide tells whether values of a kind are elements, which can be compared
+// IsSide tells whether values of a kind are elements, which can be compared
 // with those of all such kinds.
-func isSide(kind int) bool {
+func IsSide(kind int) bool {
 	switch kind {
 	case api.ValSet, api.ValFrozen, api.ValKeys, api.ValItems:
 		return true
@@ -38,11 +39,11 @@ func isSide(kind int) bool {
 
 // mayHave tells whether something can be looked for in values of a kind.
 func mayHave(kind int) bool {
-	return isRow(kind) || isSide(kind) || kind == api.ValDict || kind == api.ValValues
+	return IsRow(kind) || IsSide(kind) || kind == api.ValDict || kind == api.ValValues
 }
 
-// rowOf is the values that a tuple or a list has now.
-func rowOf(s *store.Store, v int) []int {
+// RowOf is the values that a tuple or a list has now.
+func RowOf(s *store.Store, v int) []int {
 	switch x := s.Get(v).(type) {
 	case *store.Tuple:
 		return x.Values
@@ -52,8 +53,8 @@ func rowOf(s *store.Store, v int) []int {
 	return nil
 }
 
-// dictOf is the Dict of a dictionary, or of the one that a view is of.
-func dictOf(s *store.Store, v int) *probe.Dict {
+// DictOf is the Dict of a dictionary, or of the one that a view is of.
+func DictOf(s *store.Store, v int) *probe.Dict {
 	switch x := s.Get(v).(type) {
 	case *store.Dict:
 		return x.Dict

@@ -7,41 +7,41 @@ import (
 
 // searching tells whether a value is in another one.
 type searching struct {
-	ways
+	Ways
 	store     *store.Store
 	in, value int
 }
 
-func search(s *store.Store, in, v int) task {
+func toSearch(s *store.Store, in, v int) Task {
 	x := &searching{store: s, in: in, value: v}
-	x.way = x.begin
+	x.Way = x.begin
 	return x
 }
 
-func (x *searching) begin(api.Ask) move {
+func (x *searching) begin(api.Ask) Move {
 	switch x.store.Kind(x.in) {
 	case api.ValTuple, api.ValList:
 		return x.row(0)
 	case api.ValValues:
-		return x.values(dictOf(x.store, x.in).Pairs())
+		return x.values(DictOf(x.store, x.in).Pairs())
 	case api.ValItems:
 		return x.item()
 	}
-	return after(x.look(x.value), func(came api.Ask) move { return yes(came.Yes) })
+	return After(x.look(x.value), func(came api.Ask) Move { return Yes(came.Yes) })
 }
 
 // look finds a key in the Dict.
-func (x *searching) look(key int) task {
-	return look(x.store, dictOf(x.store, x.in), api.GoalGet, key, 0)
+func (x *searching) look(key int) Task {
+	return toLook(x.store, DictOf(x.store, x.in), api.GoalGet, key, 0)
 }
 
 // row looks for the value in a row, which may be changed, from a place on.
-func (x *searching) row(i int) move {
-	now := rowOf(x.store, x.in)
+func (x *searching) row(i int) Move {
+	now := RowOf(x.store, x.in)
 	if i >= len(now) {
-		return yes(false)
+		return Yes(false)
 	}
-	return after(compare(x.store, now[i], x.value), func(came api.Ask) move {
+	return After(toCompare(x.store, now[i], x.value), func(came api.Ask) Move {
 		if came.Yes {
 			return as(came)
 		}
@@ -50,11 +50,11 @@ func (x *searching) row(i int) move {
 }
 
 // values looks for the value among those of the pairs that are left.
-func (x *searching) values(left []api.Entry) move {
+func (x *searching) values(left []api.Entry) Move {
 	if len(left) == 0 {
-		return yes(false)
+		return Yes(false)
 	}
-	return after(compare(x.store, left[0].Value, x.value), func(came api.Ask) move {
+	return After(toCompare(x.store, left[0].Value, x.value), func(came api.Ask) Move {
 		if came.Yes {
 			return as(came)
 		}
@@ -63,15 +63,15 @@ func (x *searching) values(left []api.Entry) move {
 }
 
 // item tells whether the value is a pair as a tuple.
-func (x *searching) item() move {
-	pair := rowOf(x.store, x.value)
+func (x *searching) item() Move {
+	pair := RowOf(x.store, x.value)
 	if x.store.Kind(x.value) != api.ValTuple || len(pair) != 2 {
-		return yes(false)
+		return Yes(false)
 	}
-	return after(x.look(pair[0]), func(came api.Ask) move {
+	return After(x.look(pair[0]), func(came api.Ask) Move {
 		if !came.Yes {
-			return yes(false)
+			return Yes(false)
 		}
-		return after(compare(x.store, came.Value, pair[1]), as)
+		return After(toCompare(x.store, came.Value, pair[1]), as)
 	})
 }

@@ -38,9 +38,9 @@ func tellNone(m *Machine) api.Turn {
 }
 
 func addPair(m *Machine) api.Turn {
-	if m.dict.isFull() {
+	number, ok := m.dict.Add(m.hash, m.key, m.value)
+	if !ok {
 		return api.Turn{Kind: api.TurnFull}
 	}
-	number := m.dict.add(m.hash, m.key, m.value)
 	return api.Turn{Kind: api.TurnDone, Value: m.value, Entry: number}
 }

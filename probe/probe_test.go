@@ -175,6 +175,46 @@ func TestPlaces(t *testing.T) {
 	}
 }
 
+// TestAdd: a pair comes in behind the others as a put of a new key would have
+// it, but nothing is sought.
+func TestAdd(t *testing.T) {
+	m := &meter.Meter{}
+	d, other := fresh(t, 40, m), fresh(t, 40, nil)
+	for i := range 40 {
+		hash := []int{0, 3, 224, -1, math.MinInt}[i%5]
+		if number, ok := d.Add(hash, i, -i); number != i || !ok {
+			t.Fatalf("Add %d: %d, %v", i, number, ok)
+		}
+		mustPut(t, other, hash, i, -i)
+		if d.Version() != i+1 || !slices.Equal(d.Pairs(), other.Pairs()) || !sameSight(d.Sight(), other.Sight()) {
+			t.Fatalf("Add %d: it is %+v then, of the version %d", i, d.Sight(), d.Version())
+		}
+	}
+	if got := m.Read(); got != (api.Counts{Tables: d.Sight().Made}) {
+		t.Errorf("the Meter has %+v", got)
+	}
+	if number, ok := d.Add(7, 40, 0); number != -1 || ok || d.Version() != 40 || d.Len() != 40 {
+		t.Errorf("Add to a full Dict: %d, %v", number, ok)
+	}
+	d.First()
+	if number, ok := d.Add(3, 1, 8); number != 40 || !ok { // nobody asks whether the key is there
+		t.Errorf("Add of a key that is there: %d, %v", number, ok)
+	}
+	waits := other.Begin(api.GoalGet, 3, 99, 0)
+	wantTurn(t, "a get", waits.Step(), ask(1))
+	other.First()
+	other.Add(3, 99, 5)
+	waits.Tell(true)
+	wantTurn(t, "it begins anew", waits.Step(), ask(1))
+	var none *probe.Dict
+	var zero probe.Dict
+	for _, x := range []*probe.Dict{none, &zero, fresh(t, 0, nil)} {
+		if number, ok := x.Add(1, 2, 3); number != -1 || ok || x.Version() != 0 || x.Len() != 0 {
+			t.Errorf("Add where there may be no pair: %d, %v", number, ok)
+		}
+	}
+}
+
 func TestP8_7Clear(t *testing.T) {
 	m := &meter.Meter{}
 	d, y := filled(t, 3, m, 7, 7, 1), newModel(3, nil)
